@@ -3,6 +3,7 @@ package field_test
 import (
 	"bytes"
 	"math"
+	"strings"
 	"testing"
 
 	"purlin/field"
@@ -50,6 +51,55 @@ func TestPutAndGet(t *testing.T) {
 	field.Put(nil, 9)
 	if field.Get(nil) != 0 {
 		t.Error("Get(nil)")
+	}
+}
+
+// PutText: the length, the text, zeros, over just the bytes that are handed in; GetText: the text again.
+func TestPutTextAndGetText(t *testing.T) {
+	for _, x := range []struct {
+		s    string
+		want []byte
+	}{
+		{"", []byte{0}}, {"", []byte{0, 0, 0}}, {"a", []byte{1, 'a'}}, {"a", []byte{1, 'a', 0, 0}}, {"abc", []byte{3, 'a', 'b', 'c'}},
+		{"\x00\x00", []byte{2, 0, 0, 0}}, {"a\x00", []byte{2, 'a', 0}}, {"\xff\xfe", []byte{2, 255, 254, 0, 0, 0}}, {"é", []byte{2, 0xC3, 0xA9, 0}},
+		{strings.Repeat("n", 24), append([]byte{24}, bytes.Repeat([]byte{'n'}, 24)...)},
+		{strings.Repeat("n", 255), append([]byte{255}, bytes.Repeat([]byte{'n'}, 255)...)},
+	} {
+		room := bytes.Repeat([]byte{0xAB}, len(x.want)+2)
+		field.PutText(room[1:len(room)-1], x.s)
+		want := append(append([]byte{0xAB}, x.want...), 0xAB)
+		if !bytes.Equal(room, want) {
+			t.Errorf("PutText(%q): %v, not %v", x.s, room, want)
+		}
+		if got, ok := field.GetText(x.want); got != x.s || !ok {
+			t.Errorf("GetText(%v): %q, %v, not %q", x.want, got, ok, x.s)
+		}
+	}
+}
+
+// GetText: lengths beyond what there is, and bytes behind the text that are no zeros.
+func TestGetTextOfNone(t *testing.T) {
+	for _, b := range [][]byte{
+		{1}, {255}, {2, 'a'}, {3, 0, 0}, {128, 'a', 0, 0}, {255, 'a', 'b', 'c'},
+		{0, 'a'}, {0, 0, 1}, {1, 'a', 'b'}, {1, 'a', 0, 255}, {2, 'a', 'b', 0, 0, 1, 0},
+	} {
+		if got, ok := field.GetText(b); got != "" || ok {
+			t.Errorf("GetText(%v): %q, %v", b, got, ok)
+		}
+	}
+}
+
+// IsKind: the three, those beside them, and such as fewer bits would make one.
+func TestIsKind(t *testing.T) {
+	for n := -300; n < 70000; n++ {
+		if field.IsKind(n) != (n >= 1 && n <= 3) {
+			t.Errorf("IsKind(%d): %v", n, field.IsKind(n))
+		}
+	}
+	for _, n := range []int{math.MinInt, math.MinInt + 1, -1<<32 + 1, 1<<32 + 1, 1<<32 + 2, 1<<62 + 3, math.MaxInt} {
+		if field.IsKind(n) {
+			t.Errorf("IsKind(%d): true", n)
+		}
 	}
 }
 
